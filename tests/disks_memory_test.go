@@ -109,26 +109,36 @@ func diskCalls(bytes, keep []int) []diskCall {
 		func(list []impl.Blob) ([]impl.Blob, bool) { return impl.DiskCrash(list, nil) })
 }
 
-// partsAreApart overwrites each part of each file with its spare capacity, and then the files: no other part changes by it.
-func partsAreApart(t *testing.T, list []impl.Blob) {
+// partsAreApart overwrites each part of each file of some disks with its spare capacity, and then the files of each disk: no other part changes by it, and no other disk.
+func partsAreApart(t *testing.T, disks ...[]impl.Blob) {
 	t.Helper()
 	var parts [][]int
-	for _, f := range list {
-		parts = append(parts, f.Safe, f.Fresh)
+	for _, list := range disks {
+		for _, f := range list {
+			parts = append(parts, f.Safe[:cap(f.Safe)], f.Fresh[:cap(f.Fresh)])
+		}
 	}
 	for k, part := range parts {
-		before := make([][]int, len(parts))
-		for i := range parts {
-			before[i] = slices.Clone(parts[i][:cap(parts[i])])
-		}
+		before := clonedLists(parts)
 		overwrite(part)
 		for i := range parts {
-			if i != k && !slices.Equal(parts[i][:cap(parts[i])], before[i]) {
-				t.Fatalf("parts %d and %d of %s share memory", k, i, shown(list))
+			if i != k && !slices.Equal(parts[i], before[i]) {
+				t.Fatalf("parts %d and %d of %s share memory", k, i, shown(disks))
 			}
 		}
 	}
-	overwriteDisk(list)
+	for k, list := range disks {
+		var before [][]impl.Blob
+		for _, other := range disks {
+			before = append(before, clonedDisk(other[:cap(other)]))
+		}
+		overwriteDisk(list)
+		for i, other := range disks {
+			if i != k && !sameDisk(other[:cap(other)], before[i]) {
+				t.Fatalf("disks %d and %d share memory", k, i)
+			}
+		}
+	}
 }
 
 // Calls change neither a disk, nor bytes, nor what is behind them, nor each other's results.

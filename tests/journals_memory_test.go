@@ -5,7 +5,6 @@ import (
 	"slices"
 	"sync"
 	"testing"
-	"time"
 
 	"loop.example/filereconciler/impl"
 )
@@ -80,13 +79,7 @@ func TestJournalsLeaveNoGoroutines(t *testing.T) {
 			checkJournal(t, nil, list)
 		}
 	}
-	for range 500 {
-		if runtime.NumGoroutine() <= before {
-			return
-		}
-		time.Sleep(10 * time.Millisecond)
-	}
-	t.Errorf("there were %d goroutines, and there are %d", before, runtime.NumGoroutine())
+	goroutinesEnd(t, before)
 }
 
 // Calls change neither bytes, nor what is behind them, nor each other's results.

@@ -3,9 +3,11 @@ package tests
 import (
 	"fmt"
 	"math/rand"
+	"runtime"
 	"slices"
 	"sync"
 	"testing"
+	"time"
 
 	"loop.example/filereconciler/impl"
 )
@@ -299,4 +301,16 @@ func (p pairing) hasNoPair(t *testing.T) {
 			t.Errorf("PairApart of %s is %v", shown(x), got)
 		}
 	}
+}
+
+// goroutinesEnd waits until there are no more goroutines than before: one that has ended its work may still be counted for a moment.
+func goroutinesEnd(t *testing.T, before int) {
+	t.Helper()
+	for range 500 {
+		if runtime.NumGoroutine() <= before {
+			return
+		}
+		time.Sleep(10 * time.Millisecond)
+	}
+	t.Errorf("there were %d goroutines, and there are %d", before, runtime.NumGoroutine())
 }

@@ -6,7 +6,6 @@ import (
 	"slices"
 	"sync"
 	"testing"
-	"time"
 
 	"loop.example/filereconciler/impl"
 )
@@ -175,13 +174,7 @@ func TestWinnersLeaveNoGoroutines(t *testing.T) {
 		p.checkWinners(t)
 		bad.hasNoWinner(t)
 	}
-	for range 500 {
-		if runtime.NumGoroutine() <= before {
-			return
-		}
-		time.Sleep(10 * time.Millisecond)
-	}
-	t.Errorf("there were %d goroutines, and there are %d", before, runtime.NumGoroutine())
+	goroutinesEnd(t, before)
 }
 
 // Calls change neither a tree, nor logs, nor what is behind them, nor each other's results.
